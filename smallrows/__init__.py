@@ -1,0 +1,1 @@
+"""Small numbers in rows."""

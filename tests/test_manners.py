@@ -1,0 +1,118 @@
+"""What the interface asks of every call: names, kinds, nothing changed, nothing kept, nothing printed or drawn in."""
+
+import ast
+import contextlib
+import inspect
+import io
+import pathlib
+import unittest
+
+from smallrows import elementss
+
+PARAMETERS = {
+    "mean": ["n", "the_bytes", "x", "y"],
+    "less": ["n", "the_bytes", "sign", "x", "y"],
+}
+
+# The numbers of a call that is answered, and the names of its lists.
+CALLS = [
+    ("mean", {"n": 4, "the_bytes": 1}, {"x": [0, 7, 128, 255], "y": [255, 8, 127, 255]}),
+    ("mean", {"n": 3, "the_bytes": 2}, {"x": [0, 700, 65535], "y": [65535, 801, 65535]}),
+    ("mean", {"n": 0, "the_bytes": 2}, {"x": [], "y": []}),
+    ("mean", {"n": 3, "the_bytes": 3}, {"x": [], "y": []}),
+    ("less", {"n": 4, "the_bytes": 1, "sign": 0}, {"x": [0, 7, 128, 255], "y": [255, 6, 127, 0]}),
+    ("less", {"n": 4, "the_bytes": 1, "sign": 1}, {"x": [0, 7, 128, 255], "y": [255, 8, 127, 128]}),
+    ("less", {"n": 3, "the_bytes": 2, "sign": 0}, {"x": [0, 700, 65535], "y": [65535, 699, 0]}),
+    ("less", {"n": 3, "the_bytes": 2, "sign": 1}, {"x": [0, 700, 32768], "y": [65535, 801, 32767]}),
+    ("less", {"n": 0, "the_bytes": 1, "sign": 1}, {"x": [], "y": []}),
+    ("less", {"n": 3, "the_bytes": 1, "sign": 2}, {"x": [], "y": []}),
+]
+
+
+def refuse_change(self, *args, **kwargs):
+    raise AssertionError("a list that was handed in is changed")
+
+
+class Untouchable(list):
+    """A list that tells of any change at once, even one that would be taken back later."""
+
+    append = clear = extend = insert = pop = remove = reverse = sort = refuse_change
+    __setitem__ = __delitem__ = __iadd__ = __imul__ = refuse_change
+
+
+def run(name, numbers, lists):
+    return getattr(elementss, name)(**numbers, **lists)
+
+
+class Manners(unittest.TestCase):
+    def test_parameters_are_called_as_told(self):
+        for name, wanted in PARAMETERS.items():
+            self.assertEqual(list(inspect.signature(getattr(elementss, name)).parameters), wanted)
+
+    def test_by_place_as_by_name(self):
+        for name, numbers, lists in CALLS:
+            by_place = getattr(elementss, name)(*numbers.values(), *lists.values())
+            self.assertEqual(by_place, run(name, numbers, lists))
+
+    def test_answers_are_lists_of_whole_numbers(self):
+        for name, numbers, lists in CALLS:
+            answer = run(name, numbers, lists)
+            self.assertIs(type(answer), list)
+            for number in answer:
+                self.assertIs(type(number), int)
+
+    def test_refused_alone_or_n_numbers_behind_0(self):
+        for name, numbers, lists in CALLS:
+            answer = run(name, numbers, lists)
+            if answer[0] == -1:
+                self.assertEqual(answer, [-1])
+            else:
+                self.assertEqual(answer[0], 0)
+                self.assertEqual(len(answer), numbers["n"] + 1)
+
+    def test_lists_are_not_changed(self):
+        for name, numbers, lists in CALLS:
+            before = {key: list(row) for key, row in lists.items()}
+            run(name, numbers, lists)
+            self.assertEqual(lists, before)
+
+    def test_lists_are_not_changed_for_a_while(self):
+        for name, numbers, lists in CALLS:
+            guarded = {key: Untouchable(row) for key, row in lists.items()}
+            self.assertEqual(run(name, numbers, guarded), run(name, numbers, lists))
+
+    def test_one_list_handed_in_twice(self):
+        row = [0, 1, 128, 255]
+        self.assertEqual(elementss.mean(4, 1, row, row), [0, 0, 1, 128, 255])
+        self.assertEqual(elementss.less(4, 1, 0, row, row), [0, 0, 0, 0, 0])
+        self.assertEqual(elementss.less(4, 1, 1, row, row), [0, 0, 0, 0, 0])
+        self.assertEqual(row, [0, 1, 128, 255])
+
+    def test_nothing_is_kept(self):
+        first = [run(*call) for call in CALLS]
+        wanted = [list(answer) for answer in first]
+        # Whoever gets an answer may change it: a later answer must not show that.
+        for answer in first:
+            answer.append(99)
+            answer[0] = 77
+        self.assertEqual([run(*call) for call in CALLS], wanted)
+        again = [run(*call) for call in reversed(CALLS)]
+        self.assertEqual(list(reversed(again)), wanted)
+
+    def test_nothing_is_printed(self):
+        out = io.StringIO()
+        with contextlib.redirect_stdout(out), contextlib.redirect_stderr(out):
+            for call in CALLS:
+                run(*call)
+        self.assertEqual(out.getvalue(), "")
+
+    def test_nothing_is_imported_or_read(self):
+        source = pathlib.Path(elementss.__file__).read_text(encoding="ascii")
+        for node in ast.walk(ast.parse(source)):
+            self.assertNotIsInstance(node, (ast.Import, ast.ImportFrom))
+            if isinstance(node, ast.Name):
+                self.assertNotIn(node.id, ("print", "open", "input", "eval", "exec", "__import__"))
+
+
+if __name__ == "__main__":
+    unittest.main()
