@@ -5,6 +5,9 @@ Each answers a list: -1 alone where it refuses, else 0 and then the numbers of i
 
 GREATEST_N = 1048576
 
+# How many different numbers so many bytes can hold.
+SPANS = {1: 256, 2: 65536, 4: 4294967296, 8: 18446744073709551616}
+
 
 def is_n_told(n):
     return 0 <= n and n <= GREATEST_N
@@ -18,11 +21,12 @@ def is_sign_told(sign):
     return sign == 0 or sign == 1
 
 
-def span_of(the_bytes):
-    """How many different numbers one or two bytes can hold."""
-    if the_bytes == 1:
-        return 256
-    return 65536
+def is_one_two_or_four(the_bytes):
+    return is_one_or_two(the_bytes) or the_bytes == 4
+
+
+def is_way_told(way):
+    return 0 <= way and way <= 2
 
 
 def read_signed(number, span):
@@ -38,16 +42,36 @@ def tell_signed(number, span):
     return number
 
 
+def hold_signed(number, span):
+    """The number as it is told, or the least or the greatest where it goes past them."""
+    least = 0 - span // 2
+    greatest = span // 2 - 1
+    return tell_signed(min(max(number, least), greatest), span)
+
+
 def less_unsigned(a, b):
     # b is never below 0, so a less b can't go above the greatest: only the least needs holding.
     return max(a - b, 0)
 
 
 def less_signed(a, b, span):
-    least = 0 - span // 2
-    greatest = span // 2 - 1
-    difference = read_signed(a, span) - read_signed(b, span)
-    return tell_signed(min(max(difference, least), greatest), span)
+    return hold_signed(read_signed(a, span) - read_signed(b, span), span)
+
+
+def four_apart(x, x_start, y, y_start):
+    """The sum of what four bytes of x, from x_start on, differ by from four of y."""
+    total = 0
+    for j in range(4):
+        total = total + abs(x[x_start + j] - y[y_start + j])
+    return total
+
+
+def squeeze_number(number, way, span):
+    if way == 0:
+        return number % span
+    if way == 1:
+        return hold_signed(read_signed(number, SPANS[8]), span)
+    return min(number, span - 1)
 
 
 def mean(n, the_bytes, x, y):
@@ -64,11 +88,35 @@ def less(n, the_bytes, sign, x, y):
     """x less y of each pair, held in the range of such numbers."""
     if not (is_n_told(n) and is_one_or_two(the_bytes) and is_sign_told(sign)):
         return [-1]
-    span = span_of(the_bytes)
+    span = SPANS[the_bytes]
     answer = [0]
     for i in range(n):
         if sign == 1:
             answer.append(less_signed(x[i], y[i], span))
         else:
             answer.append(less_unsigned(x[i], y[i]))
+    return answer
+
+
+def far(n, x, y):
+    """Of each group of eight bytes four sums: x's two halves against y at places that slide."""
+    if not is_n_told(n):
+        return [-1]
+    answer = [0]
+    for g in range(n):
+        start = 8 * g
+        answer.append(four_apart(x, start, y, start))
+        answer.append(four_apart(x, start, y, start + 1))
+        answer.append(four_apart(x, start + 4, y, start + 2))
+        answer.append(four_apart(x, start + 4, y, start + 3))
+    return answer
+
+
+def squeeze(n, the_bytes, way, x):
+    """Numbers of eight bytes in fewer: their lowest bytes, or held in range with or without signs."""
+    if not (is_n_told(n) and is_one_two_or_four(the_bytes) and is_way_told(way)):
+        return [-1]
+    answer = [0]
+    for i in range(n):
+        answer.append(squeeze_number(x[i], way, SPANS[the_bytes]))
     return answer

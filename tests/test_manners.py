@@ -12,6 +12,19 @@ from smallrows import elementss
 PARAMETERS = {
     "mean": ["n", "the_bytes", "x", "y"],
     "less": ["n", "the_bytes", "sign", "x", "y"],
+    "far": ["n", "x", "y"],
+    "squeeze": ["n", "the_bytes", "way", "x"],
+}
+
+# How many numbers stand behind the 0 for each one of n.
+BEHIND = {"mean": 1, "less": 1, "far": 4, "squeeze": 1}
+
+# The other numbers of a call that reads its lists if only n lets it.
+READING = {
+    "mean": {"the_bytes": 1},
+    "less": {"the_bytes": 1, "sign": 0},
+    "far": {},
+    "squeeze": {"the_bytes": 4, "way": 1},
 }
 
 # The numbers of a call that is answered, and the names of its lists.
@@ -26,6 +39,15 @@ CALLS = [
     ("less", {"n": 3, "the_bytes": 2, "sign": 1}, {"x": [0, 700, 32768], "y": [65535, 801, 32767]}),
     ("less", {"n": 0, "the_bytes": 1, "sign": 1}, {"x": [], "y": []}),
     ("less", {"n": 3, "the_bytes": 1, "sign": 2}, {"x": [], "y": []}),
+    ("far", {"n": 1}, {"x": [0, 7, 128, 255, 9, 3, 77, 8], "y": [255, 6, 127, 0, 1, 2, 3, 4]}),
+    ("far", {"n": 2}, {"x": list(range(16)), "y": list(range(200, 168, -2))}),
+    ("far", {"n": 0}, {"x": [], "y": []}),
+    ("far", {"n": -1}, {"x": [], "y": []}),
+    ("squeeze", {"n": 3, "the_bytes": 1, "way": 0}, {"x": [0, 256, 18446744073709551615]}),
+    ("squeeze", {"n": 3, "the_bytes": 2, "way": 1}, {"x": [7, 32768, 18446744073709551615]}),
+    ("squeeze", {"n": 3, "the_bytes": 4, "way": 2}, {"x": [7, 4294967296, 18446744073709551615]}),
+    ("squeeze", {"n": 0, "the_bytes": 4, "way": 2}, {"x": []}),
+    ("squeeze", {"n": 3, "the_bytes": 3, "way": 2}, {"x": []}),
 ]
 
 
@@ -38,6 +60,20 @@ class Untouchable(list):
 
     append = clear = extend = insert = pop = remove = reverse = sort = refuse_change
     __setitem__ = __delitem__ = __iadd__ = __imul__ = refuse_change
+
+
+class RowIsRead(Exception):
+    pass
+
+
+def tell_reading(self, *args, **kwargs):
+    raise RowIsRead
+
+
+class Telling(list):
+    """A row that tells when it is read: a call that refuses never comes so far."""
+
+    __getitem__ = __iter__ = __len__ = __add__ = __radd__ = __mul__ = copy = tell_reading
 
 
 def run(name, numbers, lists):
@@ -61,14 +97,22 @@ class Manners(unittest.TestCase):
             for number in answer:
                 self.assertIs(type(number), int)
 
-    def test_refused_alone_or_n_numbers_behind_0(self):
+    def test_refused_alone_or_as_many_behind_0_as_told(self):
         for name, numbers, lists in CALLS:
             answer = run(name, numbers, lists)
             if answer[0] == -1:
                 self.assertEqual(answer, [-1])
             else:
                 self.assertEqual(answer[0], 0)
-                self.assertEqual(len(answer), numbers["n"] + 1)
+                self.assertEqual(len(answer), 1 + numbers["n"] * BEHIND[name])
+
+    def test_greatest_n_is_not_refused_and_one_more_is(self):
+        # No list may be so long, but the promise names this edge: seen is that the call goes on to read its rows.
+        for name, numbers in READING.items():
+            rows = {key: Telling() for key in PARAMETERS[name] if key not in numbers and key != "n"}
+            with self.assertRaises(RowIsRead, msg=name):
+                run(name, {"n": 1048576, **numbers}, rows)
+            self.assertEqual(run(name, {"n": 1048577, **numbers}, rows), [-1], name)
 
     def test_lists_are_not_changed(self):
         for name, numbers, lists in CALLS:
@@ -87,6 +131,9 @@ class Manners(unittest.TestCase):
         self.assertEqual(elementss.less(4, 1, 0, row, row), [0, 0, 0, 0, 0])
         self.assertEqual(elementss.less(4, 1, 1, row, row), [0, 0, 0, 0, 0])
         self.assertEqual(row, [0, 1, 128, 255])
+        row = [1, 2, 4, 8, 16, 32, 64, 128]
+        self.assertEqual(elementss.far(1, row, row), [0, 0, 15, 180, 120])
+        self.assertEqual(row, [1, 2, 4, 8, 16, 32, 64, 128])
 
     def test_nothing_is_kept(self):
         first = [run(*call) for call in CALLS]
