@@ -29,6 +29,14 @@ def is_way_told(way):
     return 0 <= way and way <= 2
 
 
+def is_four_or_eight(the_bytes):
+    return the_bytes == 4 or the_bytes == 8
+
+
+def is_order_told(code):
+    return 0 <= code and code <= 255
+
+
 def read_signed(number, span):
     """The number that is meant, where those below 0 are told as span more."""
     if number < span // 2:
@@ -72,6 +80,18 @@ def squeeze_number(number, way, span):
     if way == 1:
         return hold_signed(read_signed(number, SPANS[8]), span)
     return min(number, span - 1)
+
+
+def turn_right(number, by, the_bytes):
+    span = SPANS[the_bytes]
+    # Written twice in a row, the number's second writing brings in at the top what falls out below.
+    twice = number * span + number
+    return (twice >> by % (8 * the_bytes)) % span
+
+
+def words_told(code):
+    """Which of four words each of four places gets: two bits of the code a place, the lowest first."""
+    return [code % 4, code // 4 % 4, code // 16 % 4, code // 64 % 4]
 
 
 def mean(n, the_bytes, x, y):
@@ -119,4 +139,28 @@ def squeeze(n, the_bytes, way, x):
     answer = [0]
     for i in range(n):
         answer.append(squeeze_number(x[i], way, SPANS[the_bytes]))
+    return answer
+
+
+def turn(n, the_bytes, x, by):
+    """Each number turned right by as many bits as by tells for it."""
+    if not (is_n_told(n) and is_four_or_eight(the_bytes)):
+        return [-1]
+    answer = [0]
+    for i in range(n):
+        answer.append(turn_right(x[i], by[i], the_bytes))
+    return answer
+
+
+def order(n, low, high, x):
+    """Each group of eight words, its first four in the order that low tells, its last four by high."""
+    if not (is_n_told(n) and is_order_told(low) and is_order_told(high)):
+        return [-1]
+    answer = [0]
+    for g in range(n):
+        start = 8 * g
+        for word in words_told(low):
+            answer.append(x[start + word])
+        for word in words_told(high):
+            answer.append(x[start + 4 + word])
     return answer

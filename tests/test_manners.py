@@ -14,10 +14,12 @@ PARAMETERS = {
     "less": ["n", "the_bytes", "sign", "x", "y"],
     "far": ["n", "x", "y"],
     "squeeze": ["n", "the_bytes", "way", "x"],
+    "turn": ["n", "the_bytes", "x", "by"],
+    "order": ["n", "low", "high", "x"],
 }
 
 # How many numbers stand behind the 0 for each one of n.
-BEHIND = {"mean": 1, "less": 1, "far": 4, "squeeze": 1}
+BEHIND = {"mean": 1, "less": 1, "far": 4, "squeeze": 1, "turn": 1, "order": 8}
 
 # The other numbers of a call that reads its lists if only n lets it.
 READING = {
@@ -25,6 +27,8 @@ READING = {
     "less": {"the_bytes": 1, "sign": 0},
     "far": {},
     "squeeze": {"the_bytes": 4, "way": 1},
+    "turn": {"the_bytes": 8},
+    "order": {"low": 228, "high": 27},
 }
 
 # The numbers of a call that is answered, and the names of its lists.
@@ -48,6 +52,14 @@ CALLS = [
     ("squeeze", {"n": 3, "the_bytes": 4, "way": 2}, {"x": [7, 4294967296, 18446744073709551615]}),
     ("squeeze", {"n": 0, "the_bytes": 4, "way": 2}, {"x": []}),
     ("squeeze", {"n": 3, "the_bytes": 3, "way": 2}, {"x": []}),
+    ("turn", {"n": 3, "the_bytes": 4}, {"x": [1, 305419896, 4294967295], "by": [1, 8, 255]}),
+    ("turn", {"n": 3, "the_bytes": 8}, {"x": [1, 305419896, 18446744073709551615], "by": [1, 8, 255]}),
+    ("turn", {"n": 0, "the_bytes": 8}, {"x": [], "by": []}),
+    ("turn", {"n": 3, "the_bytes": 2}, {"x": [], "by": []}),
+    ("order", {"n": 1, "low": 27, "high": 0}, {"x": [0, 7, 128, 255, 256, 32767, 32768, 65535]}),
+    ("order", {"n": 2, "low": 228, "high": 147}, {"x": list(range(40000, 40016))}),
+    ("order", {"n": 0, "low": 0, "high": 255}, {"x": []}),
+    ("order", {"n": 3, "low": 0, "high": 256}, {"x": []}),
 ]
 
 
@@ -133,6 +145,8 @@ class Manners(unittest.TestCase):
         self.assertEqual(row, [0, 1, 128, 255])
         row = [1, 2, 4, 8, 16, 32, 64, 128]
         self.assertEqual(elementss.far(1, row, row), [0, 0, 15, 180, 120])
+        self.assertEqual(elementss.turn(8, 4, row, row),
+                         [0, 2147483648, 2147483648, 1073741824, 134217728, 1048576, 32, 64, 128])
         self.assertEqual(row, [1, 2, 4, 8, 16, 32, 64, 128])
 
     def test_nothing_is_kept(self):
