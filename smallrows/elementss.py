@@ -37,6 +37,14 @@ def is_order_told(code):
     return 0 <= code and code <= 255
 
 
+def is_slide_told(k):
+    return -16 <= k and k <= 16
+
+
+def is_key_told(key):
+    return 0 <= key and key < SPANS[4]
+
+
 def read_signed(number, span):
     """The number that is meant, where those below 0 are told as span more."""
     if number < span // 2:
@@ -92,6 +100,24 @@ def turn_right(number, by, the_bytes):
 def words_told(code):
     """Which of four words each of four places gets: two bits of the code a place, the lowest first."""
     return [code % 4, code // 4 % 4, code // 16 % 4, code // 64 % 4]
+
+
+def byte_or_nothing(x, start, place):
+    """The byte at a place of the group of 16 that begins at start, 0 where the group has no such place."""
+    if 0 <= place and place < 16:
+        return x[start + place]
+    return 0
+
+
+def mark_group(key, x, start):
+    """Bit j is set where number j of the group of 16 that begins at start is key."""
+    marked = 0
+    bit = 1
+    for j in range(16):
+        if x[start + j] == key:
+            marked = marked + bit
+        bit = bit * 2
+    return marked
 
 
 def mean(n, the_bytes, x, y):
@@ -163,4 +189,25 @@ def order(n, low, high, x):
             answer.append(x[start + word])
         for word in words_told(high):
             answer.append(x[start + 4 + word])
+    return answer
+
+
+def slide(n, k, x):
+    """Each group of 16 bytes k places up, or down where k is below 0."""
+    if not (is_n_told(n) and is_slide_told(k)):
+        return [-1]
+    answer = [0]
+    for g in range(n):
+        for place in range(16):
+            answer.append(byte_or_nothing(x, 16 * g, place - k))
+    return answer
+
+
+def marks(n, key, x):
+    """For each group of 16 numbers 16 times the same: which of them are key."""
+    if not (is_n_told(n) and is_key_told(key)):
+        return [-1]
+    answer = [0]
+    for g in range(n):
+        answer.extend([mark_group(key, x, 16 * g)] * 16)
     return answer

@@ -16,10 +16,12 @@ PARAMETERS = {
     "squeeze": ["n", "the_bytes", "way", "x"],
     "turn": ["n", "the_bytes", "x", "by"],
     "order": ["n", "low", "high", "x"],
+    "slide": ["n", "k", "x"],
+    "marks": ["n", "key", "x"],
 }
 
 # How many numbers stand behind the 0 for each one of n.
-BEHIND = {"mean": 1, "less": 1, "far": 4, "squeeze": 1, "turn": 1, "order": 8}
+BEHIND = {"mean": 1, "less": 1, "far": 4, "squeeze": 1, "turn": 1, "order": 8, "slide": 16, "marks": 16}
 
 # The other numbers of a call that reads its lists if only n lets it.
 READING = {
@@ -29,6 +31,8 @@ READING = {
     "squeeze": {"the_bytes": 4, "way": 1},
     "turn": {"the_bytes": 8},
     "order": {"low": 228, "high": 27},
+    "slide": {"k": 0},
+    "marks": {"key": 4294967295},
 }
 
 # The numbers of a call that is answered, and the names of its lists.
@@ -60,6 +64,16 @@ CALLS = [
     ("order", {"n": 2, "low": 228, "high": 147}, {"x": list(range(40000, 40016))}),
     ("order", {"n": 0, "low": 0, "high": 255}, {"x": []}),
     ("order", {"n": 3, "low": 0, "high": 256}, {"x": []}),
+    ("slide", {"n": 1, "k": 3}, {"x": list(range(100, 116))}),
+    ("slide", {"n": 2, "k": -3}, {"x": list(range(100, 132))}),
+    ("slide", {"n": 1, "k": 0}, {"x": list(range(100, 116))}),
+    ("slide", {"n": 1, "k": 16}, {"x": list(range(100, 116))}),
+    ("slide", {"n": 0, "k": -16}, {"x": []}),
+    ("slide", {"n": 3, "k": 17}, {"x": []}),
+    ("marks", {"n": 1, "key": 7}, {"x": [7, 8, 4294967295, 0] * 4}),
+    ("marks", {"n": 2, "key": 4294967295}, {"x": [4294967295] * 3 + [0] * 29}),
+    ("marks", {"n": 0, "key": 0}, {"x": []}),
+    ("marks", {"n": -1, "key": 0}, {"x": []}),
 ]
 
 
