@@ -120,6 +120,15 @@ def mark_group(key, x, start):
     return marked
 
 
+def before_first_zero(row):
+    told = []
+    for byte in row:
+        if byte == 0:
+            return told
+        told.append(byte)
+    return told
+
+
 def mean(n, the_bytes, x, y):
     """Half of the sum of each pair, a half rounded up."""
     if not (is_n_told(n) and is_one_or_two(the_bytes)):
@@ -211,3 +220,23 @@ def marks(n, key, x):
     for g in range(n):
         answer.extend([mark_group(key, x, 16 * g)] * 16)
     return answer
+
+
+def among(text, the_set):
+    """255 at each place where the text has a byte that is among the set's, else 0."""
+    told = before_first_zero(text)
+    wanted = before_first_zero(the_set)
+    answer = [0]
+    for j in range(16):
+        if j < len(told) and told[j] in wanted:
+            answer.append(255)
+        else:
+            answer.append(0)
+    return answer
+
+
+def take(n, x):
+    """The groups of 64 bytes as they are, in a list of their own."""
+    if not is_n_told(n):
+        return [-1]
+    return [0] + x

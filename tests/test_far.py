@@ -100,7 +100,8 @@ class SeveralGroups(unittest.TestCase):
     def test_as_many_groups_as_a_list_may_hold(self):
         x = [i * 7919 % 256 for i in range(100000)]
         y = [i * i % 251 for i in range(100000)]
-        self.assertEqual(far(12500, x, y), expected(x, y))
+        # Compared plainly: the difference of rows so long would take minutes to tell.
+        self.assertTrue(far(12500, x, y) == expected(x, y))
 
     def test_no_group(self):
         self.assertEqual(far(0, [], []), [0])

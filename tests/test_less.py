@@ -87,7 +87,8 @@ class AllKinds(unittest.TestCase):
         y = [i * 104729 % 65536 for i in range(60000)]
         for sign in (0, 1):
             wanted = [0] + [expected(a, b, 2, sign) for a, b in zip(x, y)]
-            self.assertEqual(less(60000, 2, sign, x, y), wanted)
+            # Compared plainly: the difference of rows so long would take minutes to tell.
+            self.assertTrue(less(60000, 2, sign, x, y) == wanted, sign)
 
 
 class Refusals(unittest.TestCase):
@@ -122,7 +123,7 @@ class Refusals(unittest.TestCase):
         row = [3] * 1048576
         nothing = [0] * 1048576
         for sign in (0, 1):
-            self.assertEqual(less(1048576, 1, sign, row, nothing), [0] + row)
+            self.assertTrue(less(1048576, 1, sign, row, nothing) == [0] + row, sign)
 
 
 if __name__ == "__main__":

@@ -2,6 +2,7 @@
 
 import ast
 import contextlib
+import importlib.util
 import inspect
 import io
 import pathlib
@@ -18,10 +19,12 @@ PARAMETERS = {
     "order": ["n", "low", "high", "x"],
     "slide": ["n", "k", "x"],
     "marks": ["n", "key", "x"],
+    "among": ["text", "the_set"],
+    "take": ["n", "x"],
 }
 
 # How many numbers stand behind the 0 for each one of n.
-BEHIND = {"mean": 1, "less": 1, "far": 4, "squeeze": 1, "turn": 1, "order": 8, "slide": 16, "marks": 16}
+BEHIND = {"mean": 1, "less": 1, "far": 4, "squeeze": 1, "turn": 1, "order": 8, "slide": 16, "marks": 16, "take": 64}
 
 # The other numbers of a call that reads its lists if only n lets it.
 READING = {
@@ -33,6 +36,7 @@ READING = {
     "order": {"low": 228, "high": 27},
     "slide": {"k": 0},
     "marks": {"key": 4294967295},
+    "take": {},
 }
 
 # The numbers of a call that is answered, and the names of its lists.
@@ -74,6 +78,13 @@ CALLS = [
     ("marks", {"n": 2, "key": 4294967295}, {"x": [4294967295] * 3 + [0] * 29}),
     ("marks", {"n": 0, "key": 0}, {"x": []}),
     ("marks", {"n": -1, "key": 0}, {"x": []}),
+    ("among", {}, {"text": list(range(100, 116)), "the_set": list(range(90, 106))}),
+    ("among", {}, {"text": [255, 7, 255, 0] * 4, "the_set": [7] * 16}),
+    ("among", {}, {"text": [255, 7] * 8, "the_set": [255, 0] * 8}),
+    ("take", {"n": 1}, {"x": list(range(64))}),
+    ("take", {"n": 3}, {"x": list(range(192))}),
+    ("take", {"n": 0}, {"x": []}),
+    ("take", {"n": -1}, {"x": []}),
 ]
 
 
@@ -106,14 +117,33 @@ def run(name, numbers, lists):
     return getattr(elementss, name)(**numbers, **lists)
 
 
+def read_anew():
+    spec = importlib.util.spec_from_file_location("elementss_anew", elementss.__file__)
+    module = importlib.util.module_from_spec(spec)
+    spec.loader.exec_module(module)
+    return module
+
+
 class Manners(unittest.TestCase):
     def test_parameters_are_called_as_told(self):
         for name, wanted in PARAMETERS.items():
             self.assertEqual(list(inspect.signature(getattr(elementss, name)).parameters), wanted)
 
+    def test_every_parameter_is_plain(self):
+        plain = inspect.Parameter.POSITIONAL_OR_KEYWORD
+        for name in PARAMETERS:
+            for parameter in inspect.signature(getattr(elementss, name)).parameters.values():
+                self.assertEqual((parameter.kind, parameter.default), (plain, inspect.Parameter.empty))
+
+    def test_every_call_is_tried_here(self):
+        self.assertEqual(len(PARAMETERS), 10)
+        self.assertEqual({name for name, numbers, lists in CALLS}, set(PARAMETERS))
+        self.assertEqual(set(READING), set(PARAMETERS) - {"among"})
+
     def test_by_place_as_by_name(self):
         for name, numbers, lists in CALLS:
-            by_place = getattr(elementss, name)(*numbers.values(), *lists.values())
+            handed = {**numbers, **lists}
+            by_place = getattr(elementss, name)(*[handed[key] for key in PARAMETERS[name]])
             self.assertEqual(by_place, run(name, numbers, lists))
 
     def test_answers_are_lists_of_whole_numbers(self):
@@ -130,7 +160,8 @@ class Manners(unittest.TestCase):
                 self.assertEqual(answer, [-1])
             else:
                 self.assertEqual(answer[0], 0)
-                self.assertEqual(len(answer), 1 + numbers["n"] * BEHIND[name])
+                behind = 16 if name == "among" else numbers["n"] * BEHIND[name]
+                self.assertEqual(len(answer), 1 + behind)
 
     def test_greatest_n_is_not_refused_and_one_more_is(self):
         # No list may be so long, but the promise names this edge: seen is that the call goes on to read its rows.
@@ -162,6 +193,9 @@ class Manners(unittest.TestCase):
         self.assertEqual(elementss.turn(8, 4, row, row),
                          [0, 2147483648, 2147483648, 1073741824, 134217728, 1048576, 32, 64, 128])
         self.assertEqual(row, [1, 2, 4, 8, 16, 32, 64, 128])
+        row = [5, 6, 7, 0] * 4
+        self.assertEqual(elementss.among(row, row), [0, 255, 255, 255] + [0] * 13)
+        self.assertEqual(row, [5, 6, 7, 0] * 4)
 
     def test_nothing_is_kept(self):
         first = [run(*call) for call in CALLS]
@@ -173,6 +207,27 @@ class Manners(unittest.TestCase):
         self.assertEqual([run(*call) for call in CALLS], wanted)
         again = [run(*call) for call in reversed(CALLS)]
         self.assertEqual(list(reversed(again)), wanted)
+
+    def test_each_call_by_itself(self):
+        # A module read anew has no earlier call behind it.
+        wanted = [run(*call) for call in CALLS]
+        for (name, numbers, lists), answer in zip(CALLS, wanted):
+            fresh = read_anew()
+            self.assertEqual(getattr(fresh, name)(**numbers, **lists), answer)
+
+    def test_every_call_after_every_other(self):
+        wanted = [run(*call) for call in CALLS]
+        for first in CALLS:
+            for second, answer in zip(CALLS, wanted):
+                run(*first)
+                self.assertEqual(run(*second), answer, (first[0], second[0]))
+
+    def test_many_orders(self):
+        wanted = [run(*call) for call in CALLS]
+        for stride in range(1, len(CALLS)):
+            for i in range(len(CALLS)):
+                place = i * stride % len(CALLS)
+                self.assertEqual(run(*CALLS[place]), wanted[place])
 
     def test_nothing_is_printed(self):
         out = io.StringIO()

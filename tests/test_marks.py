@@ -67,7 +67,8 @@ class SeveralGroups(unittest.TestCase):
     def test_as_many_groups_as_a_list_may_hold(self):
         x = [i * 7919 % 5 * 1073741823 for i in range(30000)]
         for key in (0, 1073741823, 4294967292, 5):
-            self.assertEqual(marks(1875, key, x), expected(key, x), key)
+            # Compared plainly: the difference of rows so long would take minutes to tell.
+            self.assertTrue(marks(1875, key, x) == expected(key, x), key)
 
     def test_no_group(self):
         for key in (0, 1, GREATEST):

@@ -57,8 +57,10 @@ class OneGroup(unittest.TestCase):
 class SeveralGroups(unittest.TestCase):
     def test_no_group_takes_anothers_words(self):
         x = list(range(100, 108)) + list(range(200, 208)) + list(range(300, 308))
-        self.assertEqual(order(3, 0, 255, x), [0] + [100] * 4 + [107] * 4 + [200] * 4 + [207] * 4 + [300] * 4 + [307] * 4)
-        self.assertEqual(order(3, 255, 0, x), [0] + [103] * 4 + [104] * 4 + [203] * 4 + [204] * 4 + [303] * 4 + [304] * 4)
+        wanted = [100] * 4 + [107] * 4 + [200] * 4 + [207] * 4 + [300] * 4 + [307] * 4
+        self.assertEqual(order(3, 0, 255, x), [0] + wanted)
+        wanted = [103] * 4 + [104] * 4 + [203] * 4 + [204] * 4 + [303] * 4 + [304] * 4
+        self.assertEqual(order(3, 255, 0, x), [0] + wanted)
         self.assertEqual(order(3, 228, 228, x), [0] + x)
 
     def test_every_code(self):
@@ -69,7 +71,8 @@ class SeveralGroups(unittest.TestCase):
 
     def test_as_many_groups_as_a_list_may_hold(self):
         x = [i * 7919 % 65536 for i in range(60000)]
-        self.assertEqual(order(7500, 147, 57, x), expected(147, 57, x))
+        # Compared plainly: the difference of rows so long would take minutes to tell.
+        self.assertTrue(order(7500, 147, 57, x) == expected(147, 57, x))
 
     def test_no_group(self):
         for code in (0, 27, 228, 255):

@@ -69,7 +69,8 @@ class SeveralGroups(unittest.TestCase):
     def test_as_many_groups_as_a_list_may_hold(self):
         x = [i * 7919 % 256 for i in range(100000)]
         for k in (3, -7):
-            self.assertEqual(slide(6250, k, x), expected(k, x))
+            # Compared plainly: the difference of rows so long would take minutes to tell.
+            self.assertTrue(slide(6250, k, x) == expected(k, x), k)
 
     def test_no_group(self):
         for k in (0, 1, -1, 16, -16):

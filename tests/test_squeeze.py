@@ -48,7 +48,8 @@ class LowestBytes(unittest.TestCase):
 
     def test_four_bytes(self):
         x = [0, 5, 4294967295, 4294967296, 8589934591, 0x123456789ABCDEF0, GREATEST_SIGNED, LEAST_SIGNED, ALL_BITS]
-        self.assertEqual(squeeze(9, 4, 0, x), [0, 0, 5, 4294967295, 0, 4294967295, 0x9ABCDEF0, 4294967295, 0, 4294967295])
+        wanted = [0, 5, 4294967295, 0, 4294967295, 0x9ABCDEF0, 4294967295, 0, 4294967295]
+        self.assertEqual(squeeze(9, 4, 0, x), [0] + wanted)
 
     def test_below_zero(self):
         x = [below_zero(-128), below_zero(-129), below_zero(-32768), below_zero(-2147483649)]
@@ -104,7 +105,8 @@ class AllWays(unittest.TestCase):
         for the_bytes in (1, 2, 4):
             for way in (0, 1, 2):
                 wanted = [0] + [expected(number, the_bytes, way) for number in x]
-                self.assertEqual(squeeze(16000, the_bytes, way, x), wanted, (the_bytes, way))
+                # Compared plainly: the difference of rows so long would take minutes to tell.
+                self.assertTrue(squeeze(16000, the_bytes, way, x) == wanted, (the_bytes, way))
 
     def test_no_numbers(self):
         for the_bytes in (1, 2, 4):
